@@ -1,30 +1,65 @@
 package vm
 
-import "barograph/api"
+import (
+	"slices"
 
-// thread: what a thread has of its own within a call. Its code is valid, so that every register that an instruction
-// names exists, and every jump ends within the code or directly behind it.
-type thread struct {
+	"barograph/api"
+)
+
+// Thread: what a thread has of its own within a call. Its code is valid, so that every register that an instruction
+// names exists, and every jump ends within the code or directly behind it. The zero value is not within a call.
+type Thread struct {
 	code      []api.Op
 	next      int // the number of the instruction that is executed next
 	registers [api.MaxRegs]int
 	told      []int
 }
 
-func begin(code []api.Op, args []int) thread {
-	t := thread{code: code}
+// Begin returns a thread at the start of a call. The error is ErrForm if the code is not valid, and ErrSize if there
+// are more than MaxArgs arguments.
+func Begin(code []api.Op, args []int) (Thread, api.Errno) {
+	if !May(code) {
+		return Thread{}, api.ErrForm
+	}
+	if len(args) > api.MaxArgs {
+		return Thread{}, api.ErrSize
+	}
+	// The thread outlives this function, which may not keep what it is passed.
+	t := Thread{code: slices.Clone(code)}
 	copy(t.registers[:], args)
-	return t
+	return t, api.OK
 }
 
-func (t *thread) ended() bool {
+// Ended reports whether the thread has nothing to execute: its call has ended, or it is not within one.
+func (t *Thread) Ended() bool {
 	return t.next == len(t.code)
 }
 
-// step executes one instruction of a call that has not ended.
-func (t *thread) step(words []int) api.Errno {
+// Told returns the numbers that the call has emitted up to now.
+func (t *Thread) Told() []int {
+	return slices.Clone(t.told)
+}
+
+// Step executes one instruction, if there is one, on the shared words, which it changes. An error, ErrRange or
+// ErrFull, ends the call.
+func (t *Thread) Step(words []int) api.Errno {
+	if t.Ended() {
+		return api.OK
+	}
 	op := t.code[t.next]
 	t.next++
+	e := t.execute(op, words)
+	if e != api.OK {
+		t.end()
+	}
+	return e
+}
+
+func (t *Thread) end() {
+	t.next = len(t.code)
+}
+
+func (t *Thread) execute(op api.Op, words []int) api.Errno {
 	switch op.Kind {
 	case api.Set:
 		t.registers[op.A] = op.B
@@ -45,7 +80,7 @@ func (t *thread) step(words []int) api.Errno {
 	case api.Emit:
 		return t.emit(t.registers[op.A])
 	case api.Done:
-		t.next = len(t.code)
+		t.end()
 	default:
 		t.registers[op.A] = compute(op.Kind, t.registers[op.B], t.registers[op.C])
 	}
@@ -83,7 +118,7 @@ func truth(holds bool) int {
 	return 0
 }
 
-func (t *thread) access(op api.Op, words []int) api.Errno {
+func (t *Thread) access(op api.Op, words []int) api.Errno {
 	place := t.registers[op.B] + op.C
 	if place < 0 || place >= len(words) {
 		return api.ErrRange
@@ -103,7 +138,7 @@ func (t *thread) access(op api.Op, words []int) api.Errno {
 	return api.OK
 }
 
-func (t *thread) emit(n int) api.Errno {
+func (t *Thread) emit(n int) api.Errno {
 	if len(t.told) == api.MaxCode {
 		return api.ErrFull
 	}

@@ -566,9 +566,9 @@ func TestRunWrappedAddress(t *testing.T) {
 // An access that fails leaves the registers as they are. Run does not return them, so the thread itself is looked at.
 func TestFailedAccessHasNoEffect(t *testing.T) {
 	for _, o := range accesses(0) {
-		thread := begin(code(o), []int{3, 5, 6})
+		thread, _ := Begin(code(o), []int{3, 5, 6})
 		registers, words := thread.registers, []int{5, 6, 5}
-		e := thread.step(words)
+		e := thread.Step(words)
 		if e != api.ErrRange || thread.registers != registers || len(thread.told) != 0 || !slices.Equal(words, []int{5, 6, 5}) {
 			t.Errorf("%s: %v, registers %v, told %v, words %v", layouts[o.Kind-1].name, e, thread.registers, thread.told, words)
 		}
