@@ -83,6 +83,26 @@ func (b *Builder) Add(to, left, right string) {
 	b.append(api.Op{Kind: api.Add, A: b.register(to), B: b.register(left), C: b.register(right)})
 }
 
+// Sub gives a register the difference of two others.
+func (b *Builder) Sub(to, left, right string) {
+	b.append(api.Op{Kind: api.Sub, A: b.register(to), B: b.register(left), C: b.register(right)})
+}
+
+// Div gives a register the quotient of two others.
+func (b *Builder) Div(to, left, right string) {
+	b.append(api.Op{Kind: api.Div, A: b.register(to), B: b.register(left), C: b.register(right)})
+}
+
+// Rem gives a register the remainder of two others.
+func (b *Builder) Rem(to, left, right string) {
+	b.append(api.Op{Kind: api.Rem, A: b.register(to), B: b.register(left), C: b.register(right)})
+}
+
+// Same gives a register 1 if two others are equal, else 0.
+func (b *Builder) Same(to, left, right string) {
+	b.append(api.Op{Kind: api.Same, A: b.register(to), B: b.register(left), C: b.register(right)})
+}
+
 // Jump goes on at a label.
 func (b *Builder) Jump(label string) {
 	b.jump(label)
@@ -93,6 +113,12 @@ func (b *Builder) Jump(label string) {
 func (b *Builder) When(register, label string) {
 	b.jump(label)
 	b.append(api.Op{Kind: api.When, A: b.register(register)})
+}
+
+// Unless goes on at a label if the register is 0.
+func (b *Builder) Unless(register, label string) {
+	b.jump(label)
+	b.append(api.Op{Kind: api.Unless, A: b.register(register)})
 }
 
 // Load reads the shared word whose address is the sum of the register base and the offset.

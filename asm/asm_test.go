@@ -40,10 +40,15 @@ func TestInstructions(t *testing.T) {
 	b.Set("c", math.MinInt)
 	b.Copy("d", "a")
 	b.Add("a", "b", "c")
+	b.Sub("b", "d", "a")
+	b.Div("c", "a", "b")
+	b.Rem("d", "c", "b")
+	b.Same("a", "d", "c")
 	b.Load("e", "b", -7)
 	b.Store("e", "d", 300)
 	b.Cas("b", "c", 5, "f")
 	wantCode(t, "all of them", b, op(api.Set, 2, math.MinInt), op(api.Copy, 3, 0), op(api.Add, 0, 1, 2),
+		op(api.Sub, 1, 3, 0), op(api.Div, 2, 0, 1), op(api.Rem, 3, 2, 1), op(api.Same, 0, 3, 2),
 		op(api.Load, 4, 1, -7), op(api.Store, 4, 3, 300), op(api.Cas, 1, 2, 5, 5))
 }
 
@@ -74,9 +79,12 @@ func TestLabels(t *testing.T) {
 	b.Label("middle")
 	b.When("b", "a")
 	b.Jump("start")
+	b.Unless("b", "middle")
+	b.Unless("a", "end")
 	b.When("a", "end")
 	b.Label("end")
-	wantCode(t, "forward and back", b, op(api.Jump, 5), op(api.When, 0, 2), op(api.When, 1, 0), op(api.Jump, 0), op(api.When, 0, 5))
+	wantCode(t, "forward and back", b, op(api.Jump, 7), op(api.When, 0, 2), op(api.When, 1, 0), op(api.Jump, 0),
+		op(api.Unless, 1, 2), op(api.Unless, 0, 7), op(api.When, 0, 7))
 }
 
 // A code that adds the numbers from its argument down to 1.
@@ -84,14 +92,12 @@ func TestExecution(t *testing.T) {
 	b := New("left")
 	b.Set("minus one", -1)
 	b.Label("again")
-	b.When("left", "go on")
-	b.Emit("sum", "left")
-	b.Jump("end")
-	b.Label("go on")
+	b.Unless("left", "end")
 	b.Add("sum", "sum", "left")
 	b.Add("left", "left", "minus one")
-	b.Jump("again")
+	b.When("sum", "again")
 	b.Label("end")
+	b.Emit("sum", "left")
 	code, _ := b.Code()
 	for n, want := range []int{0, 1, 3, 6, 10, 15} {
 		told, _, _, e := vm.Run(code, []int{n}, nil, api.MaxSteps)
@@ -129,6 +135,8 @@ func TestLabelsThatDoNotExist(t *testing.T) {
 	wantError(t, "of a When", b, api.ErrNone)
 	b.Label("y")
 	wantCode(t, "now this one does", b, op(api.Jump, 1), op(api.When, 0, 2))
+	b.Unless("x", "z")
+	wantError(t, "of an Unless", b, api.ErrNone)
 }
 
 // A jump to the label "" is not one that has no label.

@@ -7,7 +7,8 @@ import (
 )
 
 // Thread: what a thread has of its own within a call. Its code is valid, so that every register that an instruction
-// names exists, and every jump ends within the code or directly behind it. The zero value is not within a call.
+// names exists, and every jump ends within the code or directly behind it. The zero value is not within a call. A copy
+// goes on independently of the original.
 type Thread struct {
 	code      []api.Op
 	next      int // the number of the instruction that is executed next
@@ -38,6 +39,11 @@ func (t *Thread) Ended() bool {
 // Told returns the numbers that the call has emitted up to now.
 func (t *Thread) Told() []int {
 	return slices.Clone(t.told)
+}
+
+// State returns the number of the instruction that is executed next, and the registers.
+func (t *Thread) State() (next int, registers [api.MaxRegs]int) {
+	return t.next, t.registers
 }
 
 // Step executes one instruction, if there is one, on the shared words, which it changes. An error, ErrRange or
@@ -142,6 +148,7 @@ func (t *Thread) emit(n int) api.Errno {
 	if len(t.told) == api.MaxCode {
 		return api.ErrFull
 	}
-	t.told = append(t.told, n)
+	// The memory behind told may be that of a copy, too.
+	t.told = append(slices.Clip(t.told), n)
 	return api.OK
 }

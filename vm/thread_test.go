@@ -105,3 +105,43 @@ func TestThreadMemory(t *testing.T) {
 	wantStep(t, "third", &thread, nil, api.OK)
 	wantThread(t, "in the end", &thread, true, 5, 6, 5)
 }
+
+func TestThreadState(t *testing.T) {
+	want := func(name string, thread *Thread, next int, registers ...int) {
+		t.Helper()
+		var all [api.MaxRegs]int
+		copy(all[:], registers)
+		if n, r := thread.State(); n != next || r != all {
+			t.Errorf("%s: State = %d, %v, want %d, %v", name, n, r, next, all)
+		}
+	}
+	want("the zero value", &Thread{}, 0)
+	words := []int{4}
+	thread, _ := Begin(code(op(api.Set, 1, 8), op(api.Load, 2, 3), op(api.When, 0, 1)), []int{7})
+	want("at first", &thread, 0, 7)
+	wantStep(t, "Set", &thread, words, api.OK)
+	want("after one step", &thread, 1, 7, 8)
+	wantStep(t, "Load", &thread, words, api.OK)
+	want("after two steps", &thread, 2, 7, 8, 4)
+	wantStep(t, "When", &thread, words, api.OK)
+	want("after three steps", &thread, 1, 7, 8, 4)
+}
+
+// A thread and its copies emit different numbers.
+func TestThreadCopies(t *testing.T) {
+	words := []int{0}
+	load, emit := op(api.Load, 0, 1), op(api.Emit, 0)
+	thread, _ := Begin(code(emit, emit, emit, load, emit), []int{5})
+	for range 3 {
+		wantStep(t, "before", &thread, words, api.OK)
+	}
+	one, two := thread, thread
+	for i, c := range []*Thread{&one, &two, &thread} {
+		words[0] = 10 + i
+		wantStep(t, "Load", c, words, api.OK)
+		wantStep(t, "Emit", c, words, api.OK)
+	}
+	wantThread(t, "one copy", &one, true, 5, 5, 5, 10)
+	wantThread(t, "the other copy", &two, true, 5, 5, 5, 11)
+	wantThread(t, "the original", &thread, true, 5, 5, 5, 12)
+}

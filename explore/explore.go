@@ -1,0 +1,147 @@
+// Package explore finds all states that a machine of package run can reach under all schedules. The tests of packages
+// whose codes such a machine executes use it.
+//
+// Other threads cannot see when a thread executes an instruction that accesses no shared word. Hence a thread executes
+// these together with the access before them, and what a call has to do before its first access together with this
+// one. So a call begins as late as possible and ends as early as possible: whatever does not overlap under some
+// schedule does not overlap here.
+package explore
+
+import (
+	"slices"
+
+	"barograph/api"
+	"barograph/vm"
+)
+
+// Search: what is explored. States in which something else has been noted are different states.
+type Search[Notes comparable] struct {
+	Machine api.Machine // a valid one
+	Again   bool        // a thread that has ended its last call begins with its first one again
+	Most    int         // the search ends when it has visited so many states
+	// Note is called with each event, whose Step is 0. It returns the new notes, and whether this event may occur.
+	Note func(notes Notes, event api.Event) (Notes, bool)
+}
+
+// Result: of a search.
+type Result struct {
+	States int   // the number of states that have been visited
+	All    bool  // these are all that can be reached
+	Wrong  []int // a schedule that leads to an event that may not occur, if there is one
+}
+
+// state: of a machine, and what has been noted.
+type state[Notes comparable] struct {
+	words   []int
+	threads []thread
+	notes   Notes
+}
+
+// thread: of a state. Between two calls, its embedded thread is the zero value.
+type thread struct {
+	vm.Thread
+	within bool
+	call   int // the one that has begun last, or begins next
+}
+
+// origin: how a state has been reached first: from which one, by so many steps of which thread.
+type origin struct {
+	from, thread, steps int
+}
+
+// Run explores the machine. The first state has these notes.
+func (s Search[Notes]) Run(notes Notes) Result {
+	first := state[Notes]{s.Machine.Words, make([]thread, len(s.Machine.Threads)), notes}
+	visited := map[identity[Notes]]bool{first.identity(): true}
+	origins := []origin{{}}
+	waiting := []state[Notes]{first}
+	for from := 0; len(waiting) > 0; from++ {
+		now := waiting[0]
+		waiting = waiting[1:]
+		for i := range now.threads {
+			next := now.clone()
+			steps, good := s.advance(&next, i)
+			if steps > 0 && !good {
+				return Result{States: len(visited), Wrong: schedule(append(origins, origin{from, i, steps}))}
+			}
+			if id := next.identity(); !visited[id] {
+				visited[id] = true
+				origins = append(origins, origin{from, i, steps})
+				waiting = append(waiting, next)
+			}
+		}
+		if len(visited) >= s.Most {
+			return Result{States: len(visited)}
+		}
+	}
+	return Result{States: len(visited), All: true}
+}
+
+// advance lets a thread go on until it is about to access a shared word for the second time, or its call ends. It
+// returns the number of steps, which is 0 if there is no call to begin, and whether all events may occur.
+func (s Search[Notes]) advance(w *state[Notes], i int) (steps int, good bool) {
+	t := &w.threads[i]
+	good = true
+	note := func(event api.Event) {
+		event.Thread, event.Call = i, t.call
+		var may bool
+		w.notes, may = s.Note(w.notes, event)
+		good = good && may
+	}
+	calls := s.Machine.Threads[i]
+	if !t.within {
+		if t.call == len(calls) {
+			return 0, true
+		}
+		t.begin(s.Machine.Codes, calls[t.call])
+		note(api.Event{})
+	}
+	code := s.Machine.Codes[calls[t.call].Code]
+	// The limit is for a code that does not come to an access any more.
+	for accessed := false; steps < api.MaxSteps; {
+		if !t.Ended() && accesses(code, &t.Thread) {
+			if accessed {
+				return steps, good
+			}
+			accessed = true
+		}
+		e := t.Step(w.words)
+		steps++
+		if t.Ended() {
+			note(api.Event{End: true, Code: e, Told: t.Told()})
+			t.end(len(calls), s.Again)
+			return steps, good
+		}
+	}
+	return steps, good
+}
+
+func (t *thread) begin(codes [][]api.Op, call api.Call) {
+	// There is no error: the calls of a valid machine are valid.
+	t.Thread, _ = vm.Begin(codes[call.Code], call.Args)
+	t.within = true
+}
+
+func (t *thread) end(calls int, again bool) {
+	*t = thread{call: t.call + 1}
+	if again {
+		t.call %= calls
+	}
+}
+
+// accesses: the instruction that is executed next is one that accesses a shared word.
+func accesses(code []api.Op, t *vm.Thread) bool {
+	next, _ := t.State()
+	kind := code[next].Kind
+	return kind == api.Load || kind == api.Store || kind == api.Cas
+}
+
+// schedule returns the steps that lead to the last one of the states with these origins.
+func schedule(origins []origin) []int {
+	var parts [][]int
+	for at := len(origins) - 1; at > 0; at = origins[at].from {
+		parts = append(parts, slices.Repeat([]int{origins[at].thread}, origins[at].steps))
+	}
+	slices.Reverse(parts)
+	return slices.Concat(parts...)
+}
