@@ -2,9 +2,10 @@
 // whose codes such a machine executes use it.
 //
 // Other threads cannot see when a thread executes an instruction that accesses no shared word. Hence a thread executes
-// these together with the access before them, and what a call has to do before its first access together with this
-// one. So a call begins as late as possible and ends as early as possible: whatever does not overlap under some
-// schedule does not overlap here.
+// these together with the access behind them, and what a call has to do after its last access together with this one.
+// So a call begins as late as possible and ends as early as possible: whatever does not overlap under some schedule does
+// not overlap here. And a call in progress has as many steps before it as possible: if it ends soon enough from all
+// states, it does so from wherever a schedule leads.
 package explore
 
 import (
@@ -18,6 +19,7 @@ import (
 type Search[Notes comparable] struct {
 	Machine api.Machine // a valid one
 	Again   bool        // a thread that has ended its last call begins with its first one again
+	Alone   int         // if it is not 0: from every state, each thread ends its call in so many steps if it runs alone
 	Most    int         // the search ends when it has visited so many states
 	// Note is called with each event, whose Step is 0. It returns the new notes, and whether this event may occur.
 	Note func(notes Notes, event api.Event) (Notes, bool)
@@ -27,7 +29,7 @@ type Search[Notes comparable] struct {
 type Result struct {
 	States int   // the number of states that have been visited
 	All    bool  // these are all that can be reached
-	Wrong  []int // a schedule that leads to an event that may not occur, if there is one
+	Wrong  []int // a schedule that leads to an event that may not occur, or to the last one of Alone steps, if there is one
 }
 
 // state: of a machine, and what has been noted.
@@ -59,10 +61,13 @@ func (s Search[Notes]) Run(notes Notes) Result {
 		now := waiting[0]
 		waiting = waiting[1:]
 		for i := range now.threads {
+			if !s.endsAlone(now.clone(), i) {
+				return Result{States: len(visited), Wrong: schedule(origins, origin{from, i, s.Alone})}
+			}
 			next := now.clone()
 			steps, good := s.advance(&next, i)
-			if steps > 0 && !good {
-				return Result{States: len(visited), Wrong: schedule(append(origins, origin{from, i, steps}))}
+			if !good {
+				return Result{States: len(visited), Wrong: schedule(origins, origin{from, i, steps})}
 			}
 			if id := next.identity(); !visited[id] {
 				visited[id] = true
@@ -77,8 +82,8 @@ func (s Search[Notes]) Run(notes Notes) Result {
 	return Result{States: len(visited), All: true}
 }
 
-// advance lets a thread go on until it is about to access a shared word for the second time, or its call ends. It
-// returns the number of steps, which is 0 if there is no call to begin, and whether all events may occur.
+// advance lets a thread go on until it has accessed a shared word and will do so again, or its call ends. It returns the
+// number of steps, which is 0 if there is no call to begin, and whether all events may occur.
 func (s Search[Notes]) advance(w *state[Notes], i int) (steps int, good bool) {
 	t := &w.threads[i]
 	good = true
@@ -98,13 +103,8 @@ func (s Search[Notes]) advance(w *state[Notes], i int) (steps int, good bool) {
 	}
 	code := s.Machine.Codes[calls[t.call].Code]
 	// The limit is for a code that does not come to an access any more.
-	for accessed := false; steps < api.MaxSteps; {
-		if !t.Ended() && accesses(code, &t.Thread) {
-			if accessed {
-				return steps, good
-			}
-			accessed = true
-		}
+	for steps < api.MaxSteps {
+		accessed := accesses(code, &t.Thread)
 		e := t.Step(w.words)
 		steps++
 		if t.Ended() {
@@ -112,8 +112,30 @@ func (s Search[Notes]) advance(w *state[Notes], i int) (steps int, good bool) {
 			t.end(len(calls), s.Again)
 			return steps, good
 		}
+		if accessed && !ends(code, t.Thread) {
+			return steps, good
+		}
 	}
 	return steps, good
+}
+
+// endsAlone: the thread ends its call, or the one that it begins, in as many steps as it may take alone.
+func (s Search[Notes]) endsAlone(w state[Notes], i int) bool {
+	t := &w.threads[i]
+	calls := s.Machine.Threads[i]
+	if s.Alone == 0 || t.call == len(calls) {
+		return true
+	}
+	if !t.within {
+		t.begin(s.Machine.Codes, calls[t.call])
+	}
+	for range s.Alone {
+		t.Step(w.words)
+		if t.Ended() {
+			return true
+		}
+	}
+	return false
 }
 
 func (t *thread) begin(codes [][]api.Op, call api.Call) {
@@ -129,17 +151,34 @@ func (t *thread) end(calls int, again bool) {
 	}
 }
 
-// accesses: the instruction that is executed next is one that accesses a shared word.
+// accesses: the instruction that is executed next, if there is one, is one that accesses a shared word.
 func accesses(code []api.Op, t *vm.Thread) bool {
+	if t.Ended() {
+		return false
+	}
 	next, _ := t.State()
 	kind := code[next].Kind
 	return kind == api.Load || kind == api.Store || kind == api.Cas
 }
 
-// schedule returns the steps that lead to the last one of the states with these origins.
-func schedule(origins []origin) []int {
-	var parts [][]int
-	for at := len(origins) - 1; at > 0; at = origins[at].from {
+// ends: the call ends without another access.
+func ends(code []api.Op, t vm.Thread) bool {
+	for range api.MaxSteps {
+		if t.Ended() {
+			return true
+		}
+		if accesses(code, &t) {
+			return false
+		}
+		t.Step(nil)
+	}
+	return false
+}
+
+// schedule returns the steps that lead to the last of these origins and then on to what has this one.
+func schedule(origins []origin, last origin) []int {
+	parts := [][]int{slices.Repeat([]int{last.thread}, last.steps)}
+	for at := last.from; at > 0; at = origins[at].from {
 		parts = append(parts, slices.Repeat([]int{origins[at].thread}, origins[at].steps))
 	}
 	slices.Reverse(parts)

@@ -52,6 +52,7 @@ func TestNumberOfStates(t *testing.T) {
 		{"a call without instructions", machine(nil, nil, 1), 2},
 		{"calls without instructions", machine(nil, nil, 3, 2), 12},
 		{"instructions without access", machine(nil, []api.Op{local, local, local}, 1), 2},
+		{"many instructions without access", machine(nil, slices.Repeat([]api.Op{local}, api.MaxCode), 1), 2},
 		{"one access", machine([]int{1}, []api.Op{local, shared, local, local}, 1), 2},
 		{"three accesses", machine([]int{1}, []api.Op{local, shared, local, shared, shared, local}, 1), 4},
 		{"three accesses, twice", machine([]int{1}, []api.Op{shared, shared, shared}, 2), 7},
@@ -192,7 +193,7 @@ func TestScheduleOfWrong(t *testing.T) {
 	}{
 		{"nothing", func(e api.Event) bool { return false }, nil},
 		{"begin", func(e api.Event) bool { return e.Thread == 1 && e.Call == 1 && !e.End }, []int{1, 1, 1, 1}},
-		{"between", func(e api.Event) bool { return e.Thread == 1 && e.Call == 1 && e.End && e.Told[0] == 1 }, []int{0, 0, 0, 1, 1, 1, 1}},
+		{"between", func(e api.Event) bool { return e.Thread == 1 && e.Call == 1 && e.End && e.Told[0] == 1 }, []int{0, 0, 1, 1, 1, 1}},
 		{"behind", func(e api.Event) bool { return e.Thread == 1 && e.End && e.Told[0] == 2 }, []int{0, 0, 0, 0, 1, 1}},
 	} {
 		s := Search[bool]{Machine: m, Most: most, Note: func(n bool, e api.Event) (bool, bool) { return n, !c.wrong(e) }}
@@ -302,6 +303,96 @@ func TestAllSchedules(t *testing.T) {
 	}
 	if several < 200 {
 		t.Errorf("only %d machines have several outcomes", several)
+	}
+}
+
+// wantAlone: this is the least number of steps that suffices.
+func wantAlone(t *testing.T, name string, s Search[int], least int) {
+	t.Helper()
+	s.Most, s.Note = most, anything
+	for s.Alone = max(1, least-2); s.Alone <= least+2; s.Alone++ {
+		got := s.Run(0)
+		if enough := s.Alone >= least; (got.Wrong == nil) != enough || got.All != enough {
+			t.Errorf("%s: Run with %d steps alone = %v, where %d are needed", name, s.Alone, got, least)
+		}
+	}
+}
+
+// add: a code that adds its argument to the word 0, and tries again until nobody has interfered.
+func add() []api.Op {
+	return []api.Op{op(api.Load, 1, 2), op(api.Copy, 3, 1), op(api.Add, 3, 3, 0), op(api.Cas, 3, 2, 0, 1), op(api.Unless, 3, 0), op(api.Emit, 1)}
+}
+
+func TestAlone(t *testing.T) {
+	local, shared := op(api.Set, 1, 5), op(api.Load, 0, 2)
+	adding := machine([]int{0}, add(), 2, 2)
+	for _, calls := range adding.Threads {
+		for i := range calls {
+			calls[i].Args = []int{1 - 2*i}
+		}
+	}
+	fail := []api.Op{shared, local, op(api.Load, 0, 2, 9), local, local}
+	for _, c := range []struct {
+		name    string
+		machine api.Machine
+		least   int
+	}{
+		{"no calls", machine([]int{1}, []api.Op{shared}, 0, 0), 1},
+		{"a call without instructions", machine(nil, nil, 1), 1},
+		{"instructions without access", machine(nil, []api.Op{local, local, local}, 2), 3},
+		{"one access", machine([]int{1}, []api.Op{local, shared, local, local}, 1), 4},
+		{"several accesses", machine([]int{1}, []api.Op{shared, shared, local, shared, local}, 1, 0, 1), 5},
+		{"an access that fails", machine([]int{1}, fail, 1, 1), 3},
+		// It takes 6 steps, and 4 more if others have interfered after the first one.
+		{"trying again", adding, 10},
+	} {
+		wantAlone(t, c.name, Search[int]{Machine: c.machine}, c.least)
+		wantAlone(t, c.name+", again", Search[int]{Machine: c.machine, Again: true}, c.least)
+	}
+}
+
+// The schedule ends with the steps of the thread whose call has not ended.
+func TestScheduleOfAlone(t *testing.T) {
+	wait := []api.Op{op(api.Load, 0, 2), op(api.When, 0, 0)}
+	lock := []api.Op{op(api.Set, 0, 1), op(api.Store, 0, 2), op(api.Set, 0, 0), op(api.Store, 0, 2)}
+	m := api.Machine{Words: []int{0}, Codes: [][]api.Op{lock, wait}, Threads: [][]api.Call{{{Code: 0}}, {{Code: 1}}}}
+	s := Search[int]{Machine: m, Most: most, Note: anything, Alone: 10}
+	want := []int{0, 0, 1, 1, 1, 1, 1, 1, 1, 1, 1, 1}
+	if got := s.Run(0); !slices.Equal(got.Wrong, want) || got.All {
+		t.Errorf("Run = %v, want the schedule %v", got, want)
+	}
+	m.Codes[1] = []api.Op{op(api.Jump, 0)}
+	want = slices.Repeat([]int{1}, 10)
+	if got := s.Run(0); !slices.Equal(got.Wrong, want) || got.All {
+		t.Errorf("without access: Run = %v, want the schedule %v", got, want)
+	}
+}
+
+// alone returns the most steps that a thread may need alone, wherever a schedule leads that goes on with any steps of
+// the threads.
+func alone(m api.Machine, schedule []int) int {
+	needed := 0
+	for i := range m.Threads {
+		behind := append(slices.Clone(schedule), slices.Repeat([]int{i}, 20)...)
+		events, _, _ := run.Play(m, behind)
+		for _, e := range events {
+			if e.Thread == i && e.End && e.Step >= len(schedule) {
+				needed = max(needed, e.Step-len(schedule)+1, alone(m, append(slices.Clone(schedule), i)))
+			}
+		}
+	}
+	return needed
+}
+
+// Package run lets threads run alone after all schedules of small machines.
+func TestAloneAfterAllSchedules(t *testing.T) {
+	for seed := range 300 {
+		r := rand.New(rand.NewSource(int64(seed)))
+		m := api.Machine{Words: []int{0, r.Intn(2)}, Codes: [][]api.Op{mixed(r), mixed(r)}}
+		for i := range m.Codes {
+			m.Threads = append(m.Threads, []api.Call{{Code: i, Args: []int{r.Intn(3), r.Intn(2)}}})
+		}
+		wantAlone(t, fmt.Sprint("seed ", seed), Search[int]{Machine: m}, alone(m, nil))
 	}
 }
 

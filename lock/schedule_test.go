@@ -17,9 +17,9 @@ var between = [][]int{nil, {count}, {nothing, count, fail, count}}
 // length returns how many steps the calls of one round take, if it runs alone.
 func length(t *testing.T, threads, thread int, codes ...int) int {
 	t.Helper()
-	x := newTrial(t, threads, all(threads, 1, codes...)...)
-	x.steps(thread, 600)
-	events, _, _ := run.Play(x.Machine, x.schedule)
+	x := newContest(t, threads, all(threads, 1, codes...)...)
+	x.Steps(thread, 600)
+	events, _, _ := run.Play(x.Machine, x.Schedule)
 	if n := len(events); n != 2*len(x.Threads[thread]) {
 		t.Fatalf("%d threads: thread %d alone has the events %v", threads, thread, events)
 	}
@@ -33,8 +33,8 @@ func TestOneThreadAlone(t *testing.T) {
 			for _, codes := range between {
 				calls := make([][]api.Call, threads)
 				calls[thread] = rounds(thread, 3, codes...)
-				x := newTrial(t, threads, calls...)
-				x.steps(thread, 300*3+300)
+				x := newContest(t, threads, calls...)
+				x.Steps(thread, 300*3+300)
 				name := fmt.Sprintf("thread %d of %d", thread, threads)
 				if left := x.wantGood(t, name); left != 3 {
 					t.Errorf("%s: %d calls of Leave have ended", name, left)
@@ -53,13 +53,13 @@ func TestAlternatingSteps(t *testing.T) {
 			for thread := range threads {
 				for _, long := range lengths {
 					for _, short := range lengths {
-						x := newTrial(t, threads, all(threads, 3, codes...)...)
-						for len(x.schedule) < 2000 {
+						x := newContest(t, threads, all(threads, 3, codes...)...)
+						for len(x.Schedule) < 2000 {
 							for i := range threads {
 								if i == thread {
-									x.steps(i, long)
+									x.Steps(i, long)
 								} else {
-									x.steps(i, short)
+									x.Steps(i, short)
 								}
 							}
 						}
@@ -80,11 +80,11 @@ func TestLongRuns(t *testing.T) {
 		for _, codes := range between {
 			for order := range threads * threads * threads * threads {
 				for _, length := range []int{40, 90, 300} {
-					x := newTrial(t, threads, all(threads, 3, codes...)...)
-					for n := order; len(x.schedule) < 4*length; n /= threads {
-						x.steps(n%threads, length)
+					x := newContest(t, threads, all(threads, 3, codes...)...)
+					for n := order; len(x.Schedule) < 4*length; n /= threads {
+						x.Steps(n%threads, length)
 					}
-					x.turns(800, x.others()...)
+					x.Turns(800, x.Others()...)
 					left += x.wantGood(t, fmt.Sprint("the order ", order))
 					most += 3 * threads
 				}
@@ -104,15 +104,15 @@ func TestOneSuspended(t *testing.T) {
 				for at := range length(t, threads, thread, codes...) {
 					for before := 0; before <= 25; before += 5 {
 						for first := range threads {
-							x := newTrial(t, threads, all(threads, 2, codes...)...)
-							x.steps(first, before)
-							x.steps(thread, at)
+							x := newContest(t, threads, all(threads, 2, codes...)...)
+							x.Steps(first, before)
+							x.Steps(thread, at)
 							if first != thread {
-								x.steps(first, 100)
+								x.Steps(first, 100)
 							}
-							x.turns(100, x.others(thread)...)
-							x.steps(thread, 50)
-							x.turns(400, x.others()...)
+							x.Turns(100, x.Others(thread)...)
+							x.Steps(thread, 50)
+							x.Turns(400, x.Others()...)
 							left += x.wantGood(t, fmt.Sprintf("%d steps of %d, thread %d of %d at %d", before, first, thread, threads, at))
 							most += 2 * threads
 						}
@@ -136,13 +136,13 @@ func TestTwoSuspended(t *testing.T) {
 				}
 				total := length(t, threads, one, count)
 				for at := range total * total {
-					x := newTrial(t, threads, all(threads, 2, count)...)
-					x.steps(one, at%total)
-					x.steps(other, at/total)
-					x.turns(40, x.others(one, other)...)
-					x.turns(1+at%5, other, one)
-					x.steps(one, 100)
-					x.turns(400, x.others()...)
+					x := newContest(t, threads, all(threads, 2, count)...)
+					x.Steps(one, at%total)
+					x.Steps(other, at/total)
+					x.Turns(40, x.Others(one, other)...)
+					x.Turns(1+at%5, other, one)
+					x.Steps(one, 100)
+					x.Turns(400, x.Others()...)
 					left += x.wantGood(t, fmt.Sprintf("thread %d at %d, thread %d of %d at %d", one, at%total, other, threads, at/total))
 					most += 2 * threads
 				}
@@ -159,12 +159,12 @@ func TestStayForEver(t *testing.T) {
 			for before := range 60 {
 				calls := all(threads, 2, count)
 				calls[thread] = calls[thread][:1]
-				x := newTrial(t, threads, calls...)
-				x.steps((thread+1)%threads, before)
-				x.turns(before, x.others()...)
-				x.steps(thread, 60)
-				x.turns(700, x.others()...)
-				x.turns(300, x.others(thread)...)
+				x := newContest(t, threads, calls...)
+				x.Steps((thread+1)%threads, before)
+				x.Turns(before, x.Others()...)
+				x.Steps(thread, 60)
+				x.Turns(700, x.Others()...)
+				x.Turns(300, x.Others(thread)...)
 				x.wantGood(t, fmt.Sprintf("thread %d of %d", thread, threads))
 			}
 		}
@@ -205,10 +205,10 @@ func TestRandomSchedules(t *testing.T) {
 				}
 			}
 		}
-		x := newTrial(t, threads, calls...)
-		for size := 100 + r.Intn(1500); len(x.schedule) < size; {
+		x := newContest(t, threads, calls...)
+		for size := 100 + r.Intn(1500); len(x.Schedule) < size; {
 			thread := r.Intn(len(calls))
-			x.steps(thread, 1+r.Intn(lengths[thread]))
+			x.Steps(thread, 1+r.Intn(lengths[thread]))
 		}
 		left += x.wantGood(t, fmt.Sprint("seed ", seed))
 	}
@@ -228,7 +228,7 @@ func note(inside int, e api.Event) (int, bool) {
 
 // wantExplored explores all schedules, as long as the states are not too many: the words of another algorithm might
 // grow without end.
-func wantExplored(t *testing.T, x *trial, again bool) {
+func wantExplored(t *testing.T, x *contest, again bool) {
 	t.Helper()
 	got := explore.Search[int]{Machine: x.Machine, Again: again, Most: 1 << 19, Note: note}.Run(0)
 	t.Logf("%d threads: %d states, all %t", len(x.Threads), got.States, got.All)
@@ -240,13 +240,13 @@ func wantExplored(t *testing.T, x *trial, again bool) {
 // All schedules of some rounds.
 func TestAllSchedules(t *testing.T) {
 	for _, c := range []struct{ threads, rounds int }{{1, 3}, {2, 3}, {3, 2}, {4, 1}} {
-		wantExplored(t, newTrial(t, c.threads, all(c.threads, c.rounds)...), false)
+		wantExplored(t, newContest(t, c.threads, all(c.threads, c.rounds)...), false)
 	}
 }
 
 // All schedules of any number of rounds.
 func TestAllSchedulesWithoutEnd(t *testing.T) {
 	for threads := 1; threads <= api.MaxThreads; threads++ {
-		wantExplored(t, newTrial(t, threads, all(threads, 1)...), true)
+		wantExplored(t, newContest(t, threads, all(threads, 1)...), true)
 	}
 }

@@ -30,13 +30,13 @@ func sets(threads int) [][]int {
 }
 
 // callers: of so many threads, only some have calls.
-func callers(t *testing.T, threads, present int, set []int, k int) *trial {
+func callers(t *testing.T, threads, present int, set []int, k int) *contest {
 	t.Helper()
 	calls := make([][]api.Call, present)
 	for _, i := range set {
 		calls[i] = rounds(i, k)
 	}
-	return newTrial(t, threads, calls...)
+	return newContest(t, threads, calls...)
 }
 
 // P11.3, as package run counts the steps. The lock may be for more threads than there are.
@@ -44,10 +44,10 @@ func TestTurns(t *testing.T) {
 	for threads := 1; threads <= api.MaxThreads; threads++ {
 		for present := 1; present <= threads; present++ {
 			for _, set := range sets(present) {
-				for _, turn := range [][]int{set, callers(t, threads, present, nil, 0).others()} {
+				for _, turn := range [][]int{set, callers(t, threads, present, nil, 0).Others()} {
 					for k := 1; 2*k <= api.MaxCalls && bound(k*len(set))*len(turn) <= api.MaxSteps; k++ {
 						x := callers(t, threads, present, set, k)
-						x.turns(bound(k*len(set)), turn...)
+						x.Turns(bound(k*len(set)), turn...)
 						name := fmt.Sprintf("%v of %d threads, %d times", set, threads, k)
 						if left := x.wantGood(t, name); left != k*len(set) {
 							t.Errorf("%s: %d calls of Leave have ended", name, left)
@@ -61,7 +61,7 @@ func TestTurns(t *testing.T) {
 
 // last returns how many steps each thread has performed when the last call ends, if they perform steps in turn. The
 // schedule may be longer than package run allows.
-func last(t *testing.T, x *trial, turn []int, limit int) int {
+func last(t *testing.T, x *contest, turn []int, limit int) int {
 	t.Helper()
 	words := slices.Clone(x.Words)
 	threads := make([]vm.Thread, len(x.Threads))
@@ -97,7 +97,7 @@ func TestManyTurns(t *testing.T) {
 				for k := 1; 2*k <= api.MaxCalls; k++ {
 					x := callers(t, threads, present, set, k)
 					limit := bound(k * len(set))
-					for _, turn := range [][]int{set, x.others()} {
+					for _, turn := range [][]int{set, x.Others()} {
 						if n := last(t, x, turn, limit); n > limit {
 							t.Errorf("%v of %d threads, %d times: more than %d steps", set, threads, k, limit)
 						}
@@ -110,8 +110,8 @@ func TestManyTurns(t *testing.T) {
 
 // The example: two threads that each call Enter and Leave once.
 func TestExampleOfTurns(t *testing.T) {
-	x := newTrial(t, 2, all(2, 1)...)
-	x.turns(900, 0, 1)
+	x := newContest(t, 2, all(2, 1)...)
+	x.Turns(900, 0, 1)
 	if left := x.wantGood(t, "the example"); left != 2 {
 		t.Errorf("%d calls of Leave have ended", left)
 	}

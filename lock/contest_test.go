@@ -7,9 +7,10 @@ import (
 
 	"barograph/api"
 	"barograph/run"
+	"barograph/trial"
 )
 
-// The codes of a trial: those of the lock, and others.
+// The codes of a contest: those of the lock, and others.
 const (
 	enter   = iota
 	leave   // releases it
@@ -18,14 +19,13 @@ const (
 	nothing // has no instructions
 )
 
-// trial: a machine with a lock, and a schedule that grows.
-type trial struct {
-	api.Machine
-	schedule []int
+// contest: a machine with a lock, and a schedule that grows.
+type contest struct {
+	trial.Trial
 }
 
-// newTrial: with a lock for so many threads.
-func newTrial(t *testing.T, threads int, calls ...[]api.Call) *trial {
+// newContest: with a lock for so many threads.
+func newContest(t *testing.T, threads int, calls ...[]api.Call) *contest {
 	t.Helper()
 	words, d := Words(threads)
 	in, e := Enter(threads)
@@ -39,9 +39,9 @@ func newTrial(t *testing.T, threads int, calls ...[]api.Call) *trial {
 		{Kind: api.Store, A: 0, B: 2, C: counted},
 	}
 	failing := []api.Op{{Kind: api.Store, A: 0, B: 0, C: -1}}
-	return &trial{Machine: api.Machine{
+	return &contest{trial.Trial{Machine: api.Machine{
 		Words: append(words, 0), Codes: [][]api.Op{enter: in, leave: out, count: counting, fail: failing, nothing: nil}, Threads: calls,
-	}}
+	}}}
 }
 
 // rounds: a thread enters and leaves so often, with calls of these codes in between.
@@ -66,26 +66,6 @@ func all(threads, k int, between ...int) [][]api.Call {
 	return l
 }
 
-func (x *trial) steps(thread, count int) {
-	x.schedule = append(x.schedule, slices.Repeat([]int{thread}, count)...)
-}
-
-// turns lets these threads perform steps in turn.
-func (x *trial) turns(count int, threads ...int) {
-	x.schedule = append(x.schedule, slices.Repeat(threads, count)...)
-}
-
-// others returns the other threads in order.
-func (x *trial) others(threads ...int) []int {
-	var l []int
-	for i := range x.Threads {
-		if !slices.Contains(threads, i) {
-			l = append(l, i)
-		}
-	}
-	return l
-}
-
 // stay: the steps in which a thread is inside, the first and the last one.
 type stay struct {
 	thread, first, last int
@@ -93,12 +73,12 @@ type stay struct {
 
 // stays returns those with at least one step, in the order in which their Enters ended. A thread that has not begun to
 // leave is inside up to the end of the schedule.
-func (x *trial) stays(events []api.Event) []stay {
+func (x *contest) stays(events []api.Event) []stay {
 	var l []stay
 	for _, e := range events {
 		switch code := x.Threads[e.Thread][e.Call].Code; {
 		case code == enter && e.End:
-			l = append(l, stay{e.Thread, e.Step + 1, len(x.schedule) - 1})
+			l = append(l, stay{e.Thread, e.Step + 1, len(x.Schedule) - 1})
 		case code == leave && !e.End:
 			for i := range l {
 				if l[i].thread == e.Thread {
@@ -111,7 +91,7 @@ func (x *trial) stays(events []api.Event) []stay {
 }
 
 // wrong says what contradicts P11.2, or nothing.
-func (x *trial) wrong(events []api.Event, counted int) string {
+func (x *contest) wrong(events []api.Event, counted int) string {
 	begun, ended := 0, 0
 	for _, e := range events {
 		code := x.Threads[e.Thread][e.Call].Code
@@ -137,14 +117,14 @@ func (x *trial) wrong(events []api.Event, counted int) string {
 }
 
 // wantGood plays the machine, examines the events, and returns how many calls of Leave have ended.
-func (x *trial) wantGood(t *testing.T, name string) int {
+func (x *contest) wantGood(t *testing.T, name string) int {
 	t.Helper()
-	events, words, e := run.Play(x.Machine, x.schedule)
+	events, words, e := run.Play(x.Machine, x.Schedule)
 	if e != api.OK {
 		t.Fatalf("%s: Play = %d", name, e)
 	}
 	if text := x.wrong(events, words[len(words)-1]); text != "" {
-		t.Fatalf("%s: %s, in %v, under %v", name, text, events, x.schedule)
+		t.Fatalf("%s: %s, in %v, under %v", name, text, events, x.Schedule)
 	}
 	left := 0
 	for _, e := range events {
@@ -198,8 +178,8 @@ func TestWrong(t *testing.T) {
 		{"not counted", false, 0, []api.Event{begin(4, 0, 1), end(7, 0, 1)}},
 		{"counted too often", false, 2, []api.Event{begin(4, 0, 1), end(7, 0, 1)}},
 	} {
-		x := newTrial(t, 2, all(2, 2, count, fail)...)
-		x.steps(0, 50)
+		x := newContest(t, 2, all(2, 2, count, fail)...)
+		x.Steps(0, 50)
 		if text := x.wrong(c.events, c.counted); (text == "") != c.good {
 			t.Errorf("%s: %q", c.name, text)
 		}
