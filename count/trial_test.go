@@ -17,7 +17,7 @@ const bound = 60 // of P12.2
 const (
 	add     = iota
 	get     // tells the value
-	touch   // writes a word behind those of the counter, not at once, and tells what is there
+	touch   // writes a word behind those of the counter and tells what is there
 	fail    // ends with an error
 	nothing // has no instructions
 )
@@ -25,14 +25,9 @@ const (
 // newTrial: with a word for each thread behind those of the counter.
 func newTrial(threads ...[]api.Call) *trial.Trial {
 	words := Words()
-	touching := []api.Op{
-		{Kind: api.Store, A: 1, B: 0, C: len(words)}, {Kind: api.Set, A: 2, B: 3}, {Kind: api.Load, A: 2, B: 0, C: len(words)},
-		{Kind: api.Emit, A: 2},
-	}
-	failing := []api.Op{{Kind: api.Emit, A: 0}, {Kind: api.Store, A: 0, B: 0, C: -1}}
 	return &trial.Trial{Machine: api.Machine{
 		Words: append(words, make([]int, api.MaxThreads)...), Threads: threads,
-		Codes: [][]api.Op{add: Add(), get: Get(), touch: touching, fail: failing, nothing: nil},
+		Codes: [][]api.Op{add: Add(), get: Get(), touch: trial.Touch(len(words)), fail: trial.Fail(), nothing: nil},
 	}}
 }
 

@@ -15,11 +15,13 @@ import (
 	"barograph/vm"
 )
 
-// Search: what is explored. States in which something else has been noted are different states.
+// Search: what is explored. States in which something else has been noted are different states, and so are those in
+// which calls have had other numbers of steps if Steps limits these.
 type Search[Notes comparable] struct {
 	Machine api.Machine // a valid one
 	Again   bool        // a thread that has ended its last call begins with its first one again
 	Alone   int         // if it is not 0: from every state, each thread ends its call in so many steps if it runs alone
+	Steps   int         // if it is not 0: each call ends in so many steps of its thread, whatever the other threads do
 	Most    int         // the search ends when it has visited so many states
 	// Note is called with each event, whose Step is 0. It returns the new notes, and whether this event may occur.
 	Note func(notes Notes, event api.Event) (Notes, bool)
@@ -27,9 +29,11 @@ type Search[Notes comparable] struct {
 
 // Result: of a search.
 type Result struct {
-	States int   // the number of states that have been visited
-	All    bool  // these are all that can be reached
-	Wrong  []int // a schedule that leads to an event that may not occur, or to the last one of Alone steps, if there is one
+	States int  // the number of states that have been visited
+	All    bool // these are all that can be reached
+	// Wrong is a schedule, if there is one, that leads to an event that may not occur, or to the last of Alone or Steps
+	// steps of a call that has not ended then.
+	Wrong []int
 }
 
 // state: of a machine, and what has been noted.
@@ -44,6 +48,7 @@ type thread struct {
 	vm.Thread
 	within bool
 	call   int // the one that has begun last, or begins next
+	steps  int // those in the call up to now, if there is a limit; else the states would differ in them for nothing
 }
 
 // origin: how a state has been reached first: from which one, by so many steps of which thread.
@@ -82,8 +87,9 @@ func (s Search[Notes]) Run(notes Notes) Result {
 	return Result{States: len(visited), All: true}
 }
 
-// advance lets a thread go on until it has accessed a shared word and will do so again, or its call ends. It returns the
-// number of steps, which is 0 if there is no call to begin, and whether all events may occur.
+// advance lets a thread go on until it has accessed a shared word and will do so again, or its call ends or has taken
+// all the steps that it may. It returns the number of steps, which is 0 if there is no call to begin, and whether all
+// events may occur and the call has ended in time.
 func (s Search[Notes]) advance(w *state[Notes], i int) (steps int, good bool) {
 	t := &w.threads[i]
 	good = true
@@ -112,11 +118,23 @@ func (s Search[Notes]) advance(w *state[Notes], i int) (steps int, good bool) {
 			t.end(len(calls), s.Again)
 			return steps, good
 		}
+		if s.tooLong(t) {
+			return steps, false
+		}
 		if accessed && !ends(code, t.Thread) {
 			return steps, good
 		}
 	}
 	return steps, good
+}
+
+// tooLong counts a step of a call that has not ended, and reports whether it should have.
+func (s Search[Notes]) tooLong(t *thread) bool {
+	if s.Steps == 0 {
+		return false
+	}
+	t.steps++
+	return t.steps == s.Steps
 }
 
 // endsAlone: the thread ends its call, or the one that it begins, in as many steps as it may take alone.

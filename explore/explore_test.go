@@ -81,25 +81,25 @@ func TestDifferentStates(t *testing.T) {
 	for _, n := range []int{0, 1, -1, 2, 63, 64, -64, -65, 127, 128, 255, 256, 1 << 13, 1 << 14, 1 << 32, math.MaxInt, math.MinInt} {
 		lists = append(lists, []int{n, 0}, []int{n, 3})
 	}
-	threads := []thread{{}, {call: 1}, {call: 200}}
+	threads := []thread{{}, {call: 1}, {call: 200}, {steps: 1}, {steps: 200}}
 	// The two instructions are executed again and again, so that it matters how much has been emitted.
 	code := []api.Op{op(api.Emit, 0), op(api.Jump, 0)}
 	for _, l := range lists {
 		one, _ := vm.Begin(code, l)
 		for range 6 {
-			threads = append(threads, thread{one, true, 0})
+			threads = append(threads, thread{Thread: one, within: true})
 			one.Step(nil)
 		}
 		// What differs here is only what has been emitted.
 		two, _ := vm.Begin([]api.Op{op(api.Emit, 0), op(api.Set, 0, 5), op(api.Emit, 0)}, l)
 		two.Step(nil)
 		two.Step(nil)
-		threads = append(threads, thread{two, true, 0})
+		threads = append(threads, thread{Thread: two, within: true})
 	}
 	visited := map[identity[bool]]bool{}
 	for _, words := range lists {
 		for _, one := range threads {
-			for _, other := range threads[:9] {
+			for _, other := range threads[:11] {
 				for _, notes := range []bool{false, true} {
 					for range 2 {
 						w := state[bool]{words, []thread{one, other}, notes}
@@ -109,7 +109,7 @@ func TestDifferentStates(t *testing.T) {
 			}
 		}
 	}
-	if got, want := len(visited), len(lists)*len(threads)*9*2; got != want {
+	if got, want := len(visited), len(lists)*len(threads)*11*2; got != want {
 		t.Errorf("%d different states, want %d", got, want)
 	}
 }
@@ -255,21 +255,28 @@ func (o outcome) after(e api.Event) outcome {
 	return o
 }
 
-// play finds the outcomes of all schedules that go on with so many steps of each thread.
-func play(m api.Machine, left steps, schedule []int, found map[outcome]bool) {
+// race: a machine whose two threads have one short call each, and the number of steps that these take at most.
+func race(r *rand.Rand) (api.Machine, steps) {
+	m := api.Machine{Words: []int{0, r.Intn(2)}, Codes: [][]api.Op{mixed(r), mixed(r)}}
+	var lengths steps
+	for i, code := range m.Codes {
+		m.Threads = append(m.Threads, []api.Call{{Code: i, Args: []int{r.Intn(3), r.Intn(2)}}})
+		lengths[i] = len(code)
+	}
+	return m, lengths
+}
+
+// play visits all schedules that go on with so many steps of each thread.
+func play(m api.Machine, left steps, schedule []int, visit func(schedule []int, events []api.Event)) {
 	if left == (steps{}) {
-		var o outcome
 		events, _, _ := run.Play(m, schedule)
-		for _, e := range events {
-			o = o.after(e)
-		}
-		found[o] = true
+		visit(schedule, events)
 	}
 	for i, n := range left {
 		if n > 0 {
 			next := left
 			next[i]--
-			play(m, next, append(schedule, i), found)
+			play(m, next, append(schedule, i), visit)
 		}
 	}
 }
@@ -278,15 +285,15 @@ func play(m api.Machine, left steps, schedule []int, found map[outcome]bool) {
 func TestAllSchedules(t *testing.T) {
 	several := 0
 	for seed := range 2000 {
-		r := rand.New(rand.NewSource(int64(seed)))
-		m := api.Machine{Words: []int{0, r.Intn(2)}, Codes: [][]api.Op{mixed(r), mixed(r)}}
-		var left steps
-		for i, code := range m.Codes {
-			m.Threads = append(m.Threads, []api.Call{{Code: i, Args: []int{r.Intn(3), r.Intn(2)}}})
-			left[i] = len(code)
-		}
+		m, left := race(rand.New(rand.NewSource(int64(seed))))
 		got, want := map[outcome]bool{}, map[outcome]bool{}
-		play(m, left, nil, want)
+		play(m, left, nil, func(_ []int, events []api.Event) {
+			var o outcome
+			for _, e := range events {
+				o = o.after(e)
+			}
+			want[o] = true
+		})
 		Search[outcome]{Machine: m, Most: most, Note: func(o outcome, e api.Event) (outcome, bool) {
 			o = o.after(e)
 			if o[0] != "" && o[1] != "" {
@@ -306,16 +313,28 @@ func TestAllSchedules(t *testing.T) {
 	}
 }
 
-// wantAlone: this is the least number of steps that suffices.
-func wantAlone(t *testing.T, name string, s Search[int], least int) {
+// wantLeast: the limit, which is one of the search, has to be at least this number.
+func wantLeast(t *testing.T, name string, s *Search[int], limit *int, least int) {
 	t.Helper()
 	s.Most, s.Note = most, anything
-	for s.Alone = max(1, least-2); s.Alone <= least+2; s.Alone++ {
+	for *limit = max(1, least-2); *limit <= least+2; *limit++ {
 		got := s.Run(0)
-		if enough := s.Alone >= least; (got.Wrong == nil) != enough || got.All != enough {
-			t.Errorf("%s: Run with %d steps alone = %v, where %d are needed", name, s.Alone, got, least)
+		if enough := *limit >= least; (got.Wrong == nil) != enough || got.All != enough {
+			t.Errorf("%s: Run with the limit %d = %v, where %d steps are needed", name, *limit, got, least)
 		}
 	}
+}
+
+// wantAlone: this is the least number of steps that suffices alone.
+func wantAlone(t *testing.T, name string, s Search[int], least int) {
+	t.Helper()
+	wantLeast(t, name, &s, &s.Alone, least)
+}
+
+// wantSteps: this is the least number of steps that suffices, whatever the others do.
+func wantSteps(t *testing.T, name string, s Search[int], least int) {
+	t.Helper()
+	wantLeast(t, name, &s, &s.Steps, least)
 }
 
 // add: a code that adds its argument to the word 0, and tries again until nobody has interfered.
@@ -323,14 +342,20 @@ func add() []api.Op {
 	return []api.Op{op(api.Load, 1, 2), op(api.Copy, 3, 1), op(api.Add, 3, 3, 0), op(api.Cas, 3, 2, 0, 1), op(api.Unless, 3, 0), op(api.Emit, 1)}
 }
 
-func TestAlone(t *testing.T) {
-	local, shared := op(api.Set, 1, 5), op(api.Load, 0, 2)
-	adding := machine([]int{0}, add(), 2, 2)
-	for _, calls := range adding.Threads {
+// adding: two threads add 1 and -1.
+func adding() api.Machine {
+	m := machine([]int{0}, add(), 2, 2)
+	for _, calls := range m.Threads {
 		for i := range calls {
 			calls[i].Args = []int{1 - 2*i}
 		}
 	}
+	return m
+}
+
+// Without loops, a call takes the same number of steps alone and under any schedule.
+func TestLimitsWithoutLoops(t *testing.T) {
+	local, shared := op(api.Set, 1, 5), op(api.Load, 0, 2)
 	fail := []api.Op{shared, local, op(api.Load, 0, 2, 9), local, local}
 	for _, c := range []struct {
 		name    string
@@ -343,28 +368,47 @@ func TestAlone(t *testing.T) {
 		{"one access", machine([]int{1}, []api.Op{local, shared, local, local}, 1), 4},
 		{"several accesses", machine([]int{1}, []api.Op{shared, shared, local, shared, local}, 1, 0, 1), 5},
 		{"an access that fails", machine([]int{1}, fail, 1, 1), 3},
-		// It takes 6 steps, and 4 more if others have interfered after the first one.
-		{"trying again", adding, 10},
 	} {
-		wantAlone(t, c.name, Search[int]{Machine: c.machine}, c.least)
-		wantAlone(t, c.name+", again", Search[int]{Machine: c.machine, Again: true}, c.least)
+		for _, again := range []bool{false, true} {
+			name := fmt.Sprintf("%s, again: %t", c.name, again)
+			wantAlone(t, name, Search[int]{Machine: c.machine, Again: again}, c.least)
+			wantSteps(t, name, Search[int]{Machine: c.machine, Again: again}, c.least)
+		}
+	}
+}
+
+// A call that tries again takes 6 steps, and alone 4 more if others have interfered after the first one, and in all 5
+// more for each of the calls of the other thread.
+func TestLimitsOfLoops(t *testing.T) {
+	wantAlone(t, "alone", Search[int]{Machine: adding()}, 10)
+	wantAlone(t, "alone, again", Search[int]{Machine: adding(), Again: true}, 10)
+	wantSteps(t, "in all", Search[int]{Machine: adding()}, 16)
+	both := Search[int]{Machine: adding(), Again: true, Alone: 10, Steps: 100, Most: most, Note: anything}
+	if got := both.Run(0); len(got.Wrong) < 100 || got.All {
+		t.Errorf("Run = %v, want a call that never ends", got)
+	}
+	both.Again, both.Steps = false, 16
+	if got := both.Run(0); !got.All {
+		t.Errorf("Run = %v, want no call that takes longer", got)
 	}
 }
 
 // The schedule ends with the steps of the thread whose call has not ended.
-func TestScheduleOfAlone(t *testing.T) {
+func TestScheduleOfLimits(t *testing.T) {
 	wait := []api.Op{op(api.Load, 0, 2), op(api.When, 0, 0)}
 	lock := []api.Op{op(api.Set, 0, 1), op(api.Store, 0, 2), op(api.Set, 0, 0), op(api.Store, 0, 2)}
 	m := api.Machine{Words: []int{0}, Codes: [][]api.Op{lock, wait}, Threads: [][]api.Call{{{Code: 0}}, {{Code: 1}}}}
-	s := Search[int]{Machine: m, Most: most, Note: anything, Alone: 10}
-	want := []int{0, 0, 1, 1, 1, 1, 1, 1, 1, 1, 1, 1}
-	if got := s.Run(0); !slices.Equal(got.Wrong, want) || got.All {
-		t.Errorf("Run = %v, want the schedule %v", got, want)
-	}
-	m.Codes[1] = []api.Op{op(api.Jump, 0)}
-	want = slices.Repeat([]int{1}, 10)
-	if got := s.Run(0); !slices.Equal(got.Wrong, want) || got.All {
-		t.Errorf("without access: Run = %v, want the schedule %v", got, want)
+	row := slices.Repeat([]int{1}, 10)
+	for _, s := range []Search[int]{{Alone: 10}, {Steps: 10}} {
+		s.Machine, s.Most, s.Note = m, most, anything
+		s.Machine.Codes = [][]api.Op{lock, wait}
+		if got, want := s.Run(0), append([]int{0, 0}, row...); !slices.Equal(got.Wrong, want) || got.All {
+			t.Errorf("Run = %v, want the schedule %v", got, want)
+		}
+		s.Machine.Codes = [][]api.Op{lock, {op(api.Jump, 0)}}
+		if got := s.Run(0); !slices.Equal(got.Wrong, row) || got.All {
+			t.Errorf("without access: Run = %v, want the schedule %v", got, row)
+		}
 	}
 }
 
@@ -387,12 +431,35 @@ func alone(m api.Machine, schedule []int) int {
 // Package run lets threads run alone after all schedules of small machines.
 func TestAloneAfterAllSchedules(t *testing.T) {
 	for seed := range 300 {
-		r := rand.New(rand.NewSource(int64(seed)))
-		m := api.Machine{Words: []int{0, r.Intn(2)}, Codes: [][]api.Op{mixed(r), mixed(r)}}
-		for i := range m.Codes {
-			m.Threads = append(m.Threads, []api.Call{{Code: i, Args: []int{r.Intn(3), r.Intn(2)}}})
-		}
+		m, _ := race(rand.New(rand.NewSource(int64(seed))))
 		wantAlone(t, fmt.Sprint("seed ", seed), Search[int]{Machine: m}, alone(m, nil))
+	}
+}
+
+// Package run counts the steps of the calls under all schedules of small machines.
+func TestStepsUnderAllSchedules(t *testing.T) {
+	shorter := 0
+	for seed := range 1000 {
+		m, left := race(rand.New(rand.NewSource(int64(seed))))
+		needed := 0
+		play(m, left, nil, func(schedule []int, events []api.Event) {
+			var executed steps
+			for step, i := range schedule {
+				executed[i]++
+				for _, e := range events {
+					if e.End && e.Step == step {
+						needed = max(needed, executed[i])
+					}
+				}
+			}
+		})
+		if needed < max(left[0], left[1]) {
+			shorter++
+		}
+		wantSteps(t, fmt.Sprint("seed ", seed), Search[int]{Machine: m}, needed)
+	}
+	if shorter < 100 {
+		t.Errorf("only %d machines have no call that executes all its instructions", shorter)
 	}
 }
 

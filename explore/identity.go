@@ -17,7 +17,9 @@ func (w *state[Notes]) identity() identity[Notes] {
 			within = 1
 		}
 		next, registers := t.State()
-		b = number(number(number(b, within), t.call), next)
+		for _, n := range []int{within, t.call, t.steps, next} {
+			b = number(b, n)
+		}
 		told := t.Told()
 		b = number(list(b, registers[:]), len(told))
 		b = list(b, told)
